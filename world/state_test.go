@@ -35,6 +35,26 @@ func laid(at int, b ...byte) []byte {
 	return all
 }
 
+// came is a hart at 10 that holds one granule alone, of a ret at that place: a call told it where to, and the call's granules it has let go.
+func came(t *testing.T, from byte) *hart.Hart {
+	t.Helper()
+	b := laid(5, 0xE8, from-10)
+	b[from] = 0xC3
+	m, e := memory.New(b)
+	if e != api.OK {
+		t.Fatal(e)
+	}
+	h := hart.New(0, 5)
+	for range 3 {
+		h.Step(m, false, nil)
+	}
+	h.Sync()
+	for range 2 {
+		h.Step(m, false, nil)
+	}
+	return h
+}
+
 // set is a hart at 10 with these in its first two registers: two movis, and a jump to 10.
 func set(t *testing.T, one, two byte) *hart.Hart {
 	t.Helper()
@@ -49,10 +69,12 @@ func otherHarts(t *testing.T) []*hart.Hart {
 		hart.New(0, 10),
 		led(t, laid(9), 9, 2, false, true), // halted
 		led(t, nil, 10, 1, false, true),    // faulted
-		hart.New(0, 11), hart.New(0, 1), hart.New(0, 100), hart.New(0, 1<<32-1),
-		led(t, laid(9, 0x90), 9, 2, false, false),         // Lines: granule 2
-		led(t, laid(9, 0x90, 1), 9, 2, false, false),      // with other bytes
-		led(t, laid(5, 0xE9), 5, 3, false, false),         // the granules 1 and 2
+		hart.New(0, 11), hart.New(0, 1), hart.New(0, 100), hart.New(0, 1<<8+10), hart.New(0, 1<<16+10), hart.New(0, 1<<31+10), hart.New(0, 1<<32-1),
+		led(t, laid(9, 0x90), 9, 2, false, false),    // Lines: granule 2
+		led(t, laid(9, 0x90, 1), 9, 2, false, false), // with other bytes
+		led(t, laid(5, 0xE9), 5, 3, false, false),    // the granules 1 and 2
+		came(t, 20), came(t, 24), came(t, 28), came(t, 36), // the same bytes, of the granules 5, 6, 7 and 9
+		came(t, 21), came(t, 23),
 		led(t, laid(9, 0x90, 1), 9, 3, true, false),       // Have: a beginning
 		led(t, laid(9, 0x90, 0xE6, 7), 9, 3, true, false), // all of it
 		led(t, laid(9, 0x90, 0xE6, 7), 9, 2, true, false),
@@ -111,6 +133,12 @@ func TestStateOfHarts(t *testing.T) {
 		}
 		checkUnlike(t, texts)
 	}
+	// As many harts as there are, at the same place.
+	texts := []string{}
+	for n := range api.MaxHarts + 1 {
+		texts = append(texts, worldOf(t, small(t), make([]uint32, n), nil).State())
+	}
+	checkUnlike(t, texts)
 	// What is one hart's is not another one's.
 	a, b := worldOf(t, small(t), []uint32{0, 5}, nil), worldOf(t, small(t), []uint32{5, 0}, nil)
 	checkUnlike(t, []string{a.State(), b.State()})
