@@ -169,26 +169,83 @@ func TestBoundsOfSeveral(t *testing.T) {
 	}
 }
 
-// P24.3: if a key turns again while its switch goes on both go on: what is written and sent is of the second one, and the return ends both.
+// P24.3: if a key turns again while its switch goes on both go on: all of one key, so what is written and sent is of each that has begun, and the return ends all.
 func TestBoundsWithoutReturn(t *testing.T) {
 	up, down := called(0, 1), called(0, 0)
 	for _, c := range []struct {
 		l    []api.Event
 		want int
 	}{
-		{slices.Concat(list(up), costs(3, 3), list(down), costs(3, 3), list(back(0))), fine},
-		{slices.Concat(list(up), costs(3, 3), list(down), costs(4, 0)), 11},
-		{slices.Concat(list(up), costs(3, 3), list(down), costs(0, 4)), 11},
-		{slices.Concat(list(up), costs(3, 3), list(down), costs(3, 2), list(back(0))), 13},
-		{slices.Concat(list(up), costs(3, 2), list(down), costs(3, 3), list(back(0))), 13},
-		{slices.Concat(list(up), costs(2, 3), list(down), costs(3, 3), list(back(0))), 13},
-		{slices.Concat(list(up, down), costs(3, 3), list(up), costs(3, 3), list(back(0))), 15},
-		{slices.Concat(list(up), costs(3, 3), list(down), costs(3, 3), list(up), costs(3, 3), list(back(0))), fine},
-		{slices.Concat(list(up, down, back(0))), 2},
-		{slices.Concat(list(up), costs(3, 3), list(down), costs(3, 3), list(back(0), write())), 15},
-		{slices.Concat(list(up), costs(3, 3), list(down), costs(3, 3), list(back(0), up), costs(3, 3), list(back(0))), fine},
+		// All stands behind the second call: enough, too few, too many.
+		{list(up, down, write(), sent(), write(), sent(), write(), sent(), back(0)), fine},
+		{slices.Concat(list(up, down), costs(3, 3)), fine},
+		{list(up, down, back(0)), 2},
+		{slices.Concat(list(up, down), costs(2, 3), list(back(0))), 7},
+		{slices.Concat(list(up, down), costs(3, 2), list(back(0))), 7},
+		{slices.Concat(list(up, down), costs(3, 3), list(write())), 8},
+		{slices.Concat(list(up, down), costs(3, 3), list(sent())), 8},
+		// What stands ahead of it is of the first one alone: enough for that one is too few for the second, and enough for that is too many for the first.
+		{slices.Concat(list(up), costs(3, 3), list(down)), fine},
+		{slices.Concat(list(up), costs(3, 3), list(down, back(0))), 8},
+		{slices.Concat(list(up), costs(3, 3), list(down, write())), 8},
+		{slices.Concat(list(up), costs(3, 3), list(down, sent())), 8},
+		{slices.Concat(list(up, write(), down), costs(2, 3), list(back(0))), 8},
+		{slices.Concat(list(up, write(), down), costs(3, 3)), 5},
+		{slices.Concat(list(up, sent(), down), costs(3, 2), list(back(0))), 8},
+		{slices.Concat(list(up, sent(), down), costs(3, 3)), 8},
+		// Three of them.
+		{slices.Concat(list(up, down, up), costs(3, 3), list(back(0))), fine},
+		{slices.Concat(list(up, down, up), costs(3, 2), list(back(0))), 8},
+		{slices.Concat(list(up, down, up), costs(4, 0)), 6},
+		{slices.Concat(list(up, down, write(), up), costs(3, 0)), 6},
+		{slices.Concat(list(up, down, write(), up), costs(2, 3), list(back(0))), 9},
+		// The return has ended all of them.
+		{slices.Concat(list(up, down), costs(3, 3), list(back(0), write())), 9},
+		{slices.Concat(list(up, down), costs(3, 3), list(back(0), back(0), up), costs(3, 3), list(back(0))), fine},
+		// A call by which it does not turn begins none.
+		{slices.Concat(list(up), costs(2, 2), list(up), costs(1, 1), list(down, back(0))), fine},
 	} {
 		checkBounded(t, far(), list(c.l...), c.want)
+	}
+}
+
+// P24.3: a key with several batches that turns again.
+func TestBatchesWithoutReturn(t *testing.T) {
+	for s := 1; s <= 13; s++ {
+		m := row(s)
+		w, n := 3*s, sends(s)
+		begin := list(called(0, 1), called(0, 0))
+		checkBounded(t, m, and(and(begin, costs(w, n)...), back(0)), fine)
+		checkBounded(t, m, and(begin, costs(w+1, n)...), 2+w)
+		checkBounded(t, m, and(begin, costs(w, n+1)...), 2+w+n)
+		checkBounded(t, m, and(and(begin, costs(w-1, n)...), back(0)), 1+w+n)
+		checkBounded(t, m, and(and(begin, costs(w, n-1)...), back(0)), 1+w+n)
+	}
+}
+
+// P24.3: a key that turns again while another one's switch goes on: it is switches of several keys, so what is written and sent is of the last one alone, till just one key's go on.
+func TestBoundsOfSeveralWithoutReturn(t *testing.T) {
+	m := imageOf([]int{0}, []int{10})
+	whole := and(list(called(1, 1)), costs(3, 3)...)
+	for _, c := range []struct {
+		l    []api.Event
+		want int
+	}{
+		{slices.Concat(list(called(1, 1), called(0, 1), called(0, 0)), costs(3, 3), list(back(0))), 9},
+		{slices.Concat(list(called(1, 1), called(0, 1)), costs(3, 3), list(called(0, 0)), costs(3, 3), list(back(0)), costs(3, 3), list(back(1))), fine},
+		{slices.Concat(list(called(1, 1), called(0, 1)), costs(3, 3), list(called(0, 0)), costs(4, 3)), 12},
+		{slices.Concat(list(called(1, 1), called(0, 1)), costs(3, 3), list(called(0, 0)), costs(3, 2), list(back(0))), 14},
+		{slices.Concat(list(called(0, 1), called(0, 0), called(1, 1)), costs(3, 3), list(back(1)), costs(3, 3), list(back(0))), fine},
+		{slices.Concat(list(called(0, 1), called(0, 0), called(1, 1)), costs(3, 3), list(back(1)), costs(4, 3)), 13},
+		{slices.Concat(list(called(0, 1), called(0, 0), called(1, 1)), costs(3, 3), list(back(1)), costs(3, 2), list(back(0))), 15},
+		{slices.Concat(list(called(0, 1), called(1, 1), called(0, 0)), costs(3, 3), list(back(0))), 9},
+		// Ahead of the other one's call, and behind its return, both have it; between them the last one does.
+		{slices.Concat(list(called(0, 1), called(0, 0)), costs(1, 1), list(called(1, 1)), costs(3, 3), list(back(1)), costs(2, 2), list(back(0))), fine},
+		{slices.Concat(whole, list(called(0, 1)), costs(1, 1), list(called(0, 0)), costs(1, 1), list(back(1)), costs(2, 2), list(back(0))), fine},
+		{slices.Concat(whole, list(called(0, 1)), costs(1, 1), list(called(0, 0)), costs(1, 1), list(back(1)), costs(3, 2)), 16},
+		{slices.Concat(whole, list(called(0, 1), called(0, 0)), costs(1, 1), list(back(1)), costs(2, 2), list(back(0))), 16},
+	} {
+		checkBounded(t, m, list(c.l...), c.want)
 	}
 }
 
@@ -236,4 +293,13 @@ func TestLongBounds(t *testing.T) {
 	}
 	checkBounded(t, m, l, fine)
 	checkBounded(t, m, append(l, sent()), len(l))
+	// All of these go on at once.
+	l = l[:0]
+	for range rounds {
+		l = append(l, called(0, 1), called(0, 0))
+	}
+	l = append(l, costs(12, 3)...)
+	checkBounded(t, m, append(l, back(0), back(0)), fine)
+	checkBounded(t, m, append(l, write()), len(l))
+	checkBounded(t, m, append(l[:len(l)-1], back(0)), len(l)-1)
 }

@@ -38,10 +38,10 @@ func (o *order) trap(x api.Event) bool {
 	}
 	s := o.sites[site]
 	k := o.keys[s.Key]
-	if k.on.number == 0 || x.N != int64(leads(s, k.up)) {
+	if k.last() == 0 || x.N != int64(leads(s, k.up)) {
 		return false
 	}
-	o.had[[2]int{x.Hart, site}] = k.on.number
+	o.had[[2]int{x.Hart, site}] = k.last()
 	return true
 }
 
@@ -54,7 +54,7 @@ func (o *order) exec(x api.Event) bool {
 		return false
 	}
 	k := o.keys[o.sites[site].Key]
-	who, on := [2]int{x.Hart, site}, k.on.number
+	who, on := [2]int{x.Hart, site}, k.last()
 	if (x.Op == api.Jmp) == k.up {
 		o.had[who] = on
 		return true

@@ -1,6 +1,10 @@
 package verdict
 
-import "switchyard/api"
+import (
+	"slices"
+
+	"switchyard/api"
+)
 
 const (
 	callsUp = 1 // the N of an EvCall that counts up; any other one counts down
@@ -16,16 +20,15 @@ type table struct {
 type key struct {
 	sites int
 	count int
-	up    bool   // it last turned up: what holds outside of its switches, and the new one within
-	on    change // its switch that goes on
+	up    bool     // it last turned up: what holds outside of its switches, and the new one within
+	on    []change // its switches that go on, as they began: several, if it turned again ahead of its return
 }
 
 // change is a switch from its call to its return.
 type change struct {
-	number int // from 1 on, as they begin; 0: none goes on
+	number int // from 1 on, as they begin
 	writes int
 	sends  int
-	short  bool // one of the key that began ahead of it, and goes on too, has made too few
 }
 
 func tableOf(m api.Image) *table {
@@ -58,14 +61,14 @@ func (t *table) call(x api.Event) {
 	k.up = k.count > 0
 	if k.sites > 0 {
 		t.begun++
-		k.on = change{number: t.begun, short: k.isShort()}
+		k.on = append(k.on, change{number: t.begun})
 	}
 }
 
 // back ends all switches of the key.
 func (t *table) back(x api.Event) {
 	if t.has(x.Key) {
-		t.keys[x.Key].on = change{}
+		t.keys[x.Key].on = nil
 	}
 }
 
@@ -80,42 +83,65 @@ func (t *table) affords(rest []api.Event) bool {
 		t.back(x)
 		return enough
 	case api.EvWrite, api.EvSend:
-		k, ok := t.last()
-		return ok && k.charge(x.Kind)
+		k, on := t.paying()
+		return len(on) > 0 && k.charge(x.Kind, on)
 	}
 	return true
 }
 
-// last is the key whose switch began last, of those that go on.
-func (t *table) last() (*key, bool) {
-	latest := 0
+// paying is those switches for which a write or a send counts, and their key.
+func (t *table) paying() (*key, []change) {
+	var last *key
+	keys := 0
 	for i := range t.keys {
-		if t.keys[i].on.number > t.keys[latest].on.number {
-			latest = i
+		k := &t.keys[i]
+		if len(k.on) == 0 {
+			continue
+		}
+		keys++
+		if last == nil || k.last() > last.last() {
+			last = k
 		}
 	}
-	if len(t.keys) == 0 || t.keys[latest].on.number == 0 {
-		return nil, false
+	switch keys {
+	case 0:
+		return nil, nil
+	case 1:
+		// Only of several keys it is one switch alone; of one key it is each in which the event stands.
+		return last, last.on
 	}
-	return &t.keys[latest], true
+	return last, last.on[len(last.on)-1:]
 }
 
-// charge tells whether the key's switch may write, or send, once more.
-func (k *key) charge(kind api.EventKind) bool {
-	if kind == api.EvWrite {
-		k.on.writes++
-		return k.on.writes <= k.writes()
+// last is the number of the key's switch that began last, of those that go on; 0: none does.
+func (k *key) last() int {
+	if len(k.on) == 0 {
+		return 0
 	}
-	k.on.sends++
-	return k.on.sends <= k.sends()
+	return k.on[len(k.on)-1].number
+}
+
+// charge tells whether each of these switches of the key may write, or send, once more.
+func (k *key) charge(kind api.EventKind, on []change) bool {
+	for i := range on {
+		c := &on[i]
+		if kind == api.EvWrite {
+			c.writes++
+		} else {
+			c.sends++
+		}
+		if c.writes > k.writes() || c.sends > k.sends() {
+			return false
+		}
+	}
+	return true
 }
 
 // isShort tells whether a switch of the key that goes on has written, or sent, less often than it must.
 func (k *key) isShort() bool {
-	if k.on.number == 0 {
-		return false
-	}
-	return k.on.short || k.on.writes < k.writes() || k.on.sends < k.sends()
+	return slices.ContainsFunc(k.on, func(c change) bool {
+		return c.writes < k.writes() || c.sends < k.sends()
+	})
 }
 
 // writes is how many a switch of the key makes.

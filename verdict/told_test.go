@@ -190,18 +190,27 @@ func toldOrdered(m api.Image, l []api.Event) int {
 	return fine
 }
 
-// payer is the place of the call of the switch for which an event behind the list counts, and its key.
-func payer(m api.Image, l []api.Event) (int, int) {
-	call, payer := -1, -1
+// payers is the calls of the switches for which an event behind the list counts, and their key; none: it is outside of all.
+func payers(m api.Image, l []api.Event) ([]int, int) {
+	var calls []int
+	keys, payer := 0, -1
 	for key := range m.Keys {
-		if on := goOn(m, l, key); len(on) > 0 && on[len(on)-1] > call {
-			call, payer = on[len(on)-1], key
+		on := goOn(m, l, key)
+		if len(on) == 0 {
+			continue
+		}
+		keys++
+		if calls = append(calls, on...); slices.Max(calls) == slices.Max(on) {
+			payer = key
 		}
 	}
-	return call, payer
+	if keys > 1 {
+		calls = []int{slices.Max(calls)}
+	}
+	return calls, payer
 }
 
-// toldBounded is Bounded said a second time: for each event that costs the switch is looked for anew.
+// toldBounded is Bounded said a second time: for each event that costs the switches are looked for anew.
 func toldBounded(m api.Image, l []api.Event) int {
 	type cost struct {
 		call int
@@ -218,14 +227,16 @@ func toldBounded(m api.Image, l []api.Event) int {
 	for i, x := range l {
 		switch x.Kind {
 		case 10, 11:
-			call, key := payer(m, l[:i])
-			if call < 0 {
+			calls, key := payers(m, l[:i])
+			if len(calls) == 0 {
 				return i
 			}
-			c := cost{call, x.Kind}
-			paid[c]++
-			if paid[c] > most(key, x.Kind) {
-				return i
+			for _, call := range calls {
+				c := cost{call, x.Kind}
+				paid[c]++
+				if paid[c] > most(key, x.Kind) {
+					return i
+				}
 			}
 		case 9:
 			for _, call := range goOn(m, l[:i], x.Key) {
@@ -346,6 +357,9 @@ func TestAllBounds(t *testing.T) {
 		{called(0, 1), write(), write(), write(), sent(), sent()},
 		{called(0, 1), write(), called(1, 1), sent(), sent(), sent(), write(), write(), write(), write(), write()},
 		{called(1, 1), write(), write(), write(), write(), sent(), sent(), called(0, 1), write(), write(), sent(), sent(), sent()},
+		{called(0, 1), called(0, 0), write(), write(), sent(), sent()},
+		{called(0, 1), write(), called(0, 0), write(), sent(), sent(), sent()},
+		{called(0, 1), write(), called(0, 0), write(), called(1, 1), write(), write(), write(), write(), write(), sent(), sent(), sent()},
 	} {
 		allLists(some, 5, func(l []api.Event) {
 			l = slices.Concat(begin, l)
